@@ -163,6 +163,36 @@ func TestMoreOfEachByte(t *testing.T) {
 	}
 }
 
+// Ways: the table has for each byte what its eight steps, of 0, come to, and stays so, whatever is asked.
+func TestStepsStandInATable(t *testing.T) {
+	for _, s := range texts() {
+		More(0xFFFFFFFF, s)
+	}
+	if len(steps) != 256 {
+		t.Fatalf("%d bytes", len(steps))
+	}
+	for b, n := range steps {
+		if want := bitwise(0, string([]byte{byte(b)})); n != want {
+			t.Errorf("of byte %d: %X; want %X", b, n, want)
+		}
+	}
+}
+
+// P3.1: no answer hangs on what stands in the table.
+func TestAnswersWithoutTheTable(t *testing.T) {
+	was := steps
+	defer func() { steps = was }()
+	clear(steps[:])
+	for _, s := range texts() {
+		if n, want := Sum(s), sumOf(s); n != want {
+			t.Errorf("Sum(%q) = %X; want %X", s, n, want)
+		}
+		if n, want := More(0x12345678, s), bitwise(0xEDCBA987, s)^0xFFFFFFFF; n != want {
+			t.Errorf("More(12345678, %q) = %X; want %X", s, n, want)
+		}
+	}
+}
+
 // P3.1: More of any number and nothing is that number.
 func TestMoreOfNothing(t *testing.T) {
 	for _, c := range numbers() {
